@@ -7,6 +7,7 @@ import (
 	"voussoir/api"
 	"voussoir/book"
 	"voussoir/sorts"
+	"voussoir/term"
 )
 
 func base() api.Sig {
@@ -104,6 +105,33 @@ func TestSort(t *testing.T) {
 		if got, ok := b.Sort(x.term); got != x.want || ok != (x.want != "") {
 			t.Error(x.term, got, ok)
 		}
+	}
+}
+
+// A book says of well formed terms what package term says.
+func TestTerms(t *testing.T) {
+	b := opened(t)
+	one, yes, x := api.Term{Kind: api.KInt, N: 1}, api.Term{Kind: api.KBool, N: 1}, api.Term{Kind: api.KVar, Text: "X", Sort: "Pgm"}
+	count := [2]int{}
+	for _, name := range []string{"plus", "nil", "len", "add", "nothing"} {
+		for _, kids := range [][]api.Term{nil, {one}, {one, one}, {one, yes}, {x, one}, {{Kind: api.KList}}} {
+			app := api.Term{Kind: api.KApp, Text: name, Kids: kids}
+			for _, y := range []api.Term{app, {Kind: api.KMap, Kids: []api.Term{app, one}}, {Kind: api.KMap, Kids: []api.Term{one, app}}, {Kind: api.KMap, Kids: []api.Term{one, app, one, app}}} {
+				fits, plain := term.Fits(base(), y), term.Plain(base(), y)
+				if b.Fits(y) != fits || b.Plain(y) != plain {
+					t.Error(y, b.Fits(y), fits, b.Plain(y), plain)
+				}
+				if fits {
+					count[0]++
+				}
+				if plain {
+					count[1]++
+				}
+			}
+		}
+	}
+	if count[0] <= count[1] || count[1] < 4 {
+		t.Error("few terms:", count)
 	}
 }
 

@@ -1,21 +1,9 @@
 package term
 
-import "voussoir/api"
-
-// clone returns a term in new memory.
-func clone(t api.Term) api.Term {
-	t.Kids = each(t.Kids, clone)
-	t.Rest = each(t.Rest, clone)
-	return t
-}
-
-func each(list []api.Term, change func(t api.Term) api.Term) []api.Term {
-	var changed []api.Term
-	for _, t := range list {
-		changed = append(changed, change(t))
-	}
-	return changed
-}
+import (
+	"voussoir/api"
+	"voussoir/nodes"
+)
 
 // follow returns where a path leads to in a term, or nil.
 func follow(t *api.Term, path []int) *api.Term {
@@ -51,8 +39,8 @@ func (x exchange) term(t api.Term) api.Term {
 			t.Text, t.Sort = x.name(t.Text), x.name(t.Sort)
 		}
 	}
-	t.Kids = each(t.Kids, x.term)
-	t.Rest = each(t.Rest, x.rest)
+	t.Kids = nodes.Each(t.Kids, x.term)
+	t.Rest = nodes.Each(t.Rest, x.rest)
 	return t
 }
 

@@ -4,32 +4,15 @@ import (
 	"strings"
 
 	"voussoir/api"
+	"voussoir/nodes"
 	"voussoir/sorts"
 )
 
 const maxString = 200 // bytes of a KText
 
-// visit calls see with a term and all nodes within it, each with its level (that of the term, and 1 more for each term that it is nested in), until see returns false; it reports whether it never did.
-func visit(t api.Term, level int, see func(node api.Term, level int) bool) bool {
-	if !see(t, level) {
-		return false
-	}
-	for _, kid := range t.Kids {
-		if !visit(kid, level+1, see) {
-			return false
-		}
-	}
-	for _, rest := range t.Rest {
-		if !visit(rest, level+1, see) {
-			return false
-		}
-	}
-	return true
-}
-
 // measure returns the size and the depth of a term: ErrArg unless it is well formed. It looks no further than at what shows that: a term may be of any size.
 func measure(t api.Term) (size, depth int, e api.Errno) {
-	wellFormed := visit(t, 1, func(node api.Term, level int) bool {
+	wellFormed := nodes.Visit(t, func(node api.Term, level int) bool {
 		size++
 		depth = max(depth, level)
 		return size <= api.MaxSize && depth <= api.MaxNest && validNode(node)

@@ -5,7 +5,7 @@ import (
 	"sort"
 
 	"voussoir/api"
-	"voussoir/term"
+	"voussoir/nodes"
 )
 
 func list(elements []api.Term) api.Term { return api.Term{Kind: api.KList, Kids: elements} }
@@ -17,8 +17,7 @@ func join(args []api.Term) api.Term { return list(slices.Concat(args[0].Kids, ar
 // find returns where the entry of a key begins and ends among those of a map; if there is none, it ends where it would begin.
 func find(entries []api.Term, key api.Term) (from, to int) {
 	i, there := sort.Find(len(entries)/2, func(i int) int {
-		order, _ := term.Compare(key, entries[2*i])
-		return order
+		return nodes.Compare(key, entries[2*i])
 	})
 	if !there {
 		return 2 * i, 2 * i
@@ -42,15 +41,11 @@ func has(args []api.Term) bool {
 
 func put(args []api.Term) (api.Term, api.Errno) {
 	entries, key, value := args[0].Kids, args[1], args[2]
-	if !isKey(key) {
+	if !nodes.IsKey(key) {
 		return api.Term{}, api.ErrKind
 	}
 	from, to := find(entries, key)
 	return table(slices.Replace(slices.Clone(entries), from, to, key, value)), api.OK
-}
-
-func isKey(t api.Term) bool {
-	return t.Kind == api.KInt || t.Kind == api.KText || t.Kind == api.KId
 }
 
 func del(args []api.Term) api.Term {
