@@ -82,9 +82,12 @@ func (m matcher) wholeMap(p, t api.Term, all []binding) []binding {
 	return ended
 }
 
-// goOn goes on, on each way, with each entry of a map that an entry of a pattern can take.
+// goOn goes on, on each way, with each entry of a map that an entry of a pattern can take. The same variables have terms on all ways.
 func (m matcher) goOn(mine entry, its []entry, ways []way) []way {
-	suited := m.suited(mine, its)
+	if len(ways) == 0 {
+		return nil
+	}
+	suited := m.suited(ways[0].binding, mine, its)
 	var next []way
 	for _, w := range ways {
 		for _, i := range suited {
@@ -106,9 +109,12 @@ func (m matcher) take(mine, it entry, i int, w way) []way {
 	if !ok {
 		return nil
 	}
-	alone := []binding{slices.Clone(w.binding)}
+	alone := slices.Clone(w.binding)
+	if mine.key.Kind == api.KVar {
+		m.bind(alone, mine.key, it.key)
+	}
 	var ways []way
-	for _, b := range m.match(mine.value, it.value, m.match(mine.key, it.key, alone)) {
+	for _, b := range m.match(mine.value, it.value, []binding{alone}) {
 		ways = append(ways, way{b, left})
 	}
 	return ways

@@ -135,5 +135,5 @@ func (m matcher) hasChoice(b binding, x *table, i int) bool {
 }
 
 func (m matcher) mayTake(b binding, x *table, i, j int) bool {
-	return m.suits(x.mine[i], x.its[j]) && !m.clash(b, x.mine[i].key, x.its[j].key)
+	return m.suits(b, x.mine[i], x.its[j]) && !m.clash(b, x.mine[i].key, x.its[j].key)
 }

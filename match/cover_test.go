@@ -231,13 +231,25 @@ func naiveMap(p, q api.Term, u map[string]api.Term) []map[string]api.Term {
 	for i := 0; i < len(q.Kids); i += 2 {
 		left := q
 		left.Kids = slices.Delete(slices.Clone(q.Kids), i, i+2)
-		for _, v := range naive(p.Kids[0], q.Kids[i], u) {
+		for _, v := range naiveKey(p.Kids[0], q.Kids[i], u) {
 			for _, w := range naive(p.Kids[1], q.Kids[i+1], v) {
 				all = append(all, naiveMap(rest, left, w)...)
 			}
 		}
 	}
 	return all
+}
+
+// naiveKey matches keys. One that has a term already stands for it.
+func naiveKey(p, q api.Term, u map[string]api.Term) []map[string]api.Term {
+	old, there := u[p.Text]
+	switch {
+	case p.Kind != api.KVar || !there:
+		return naive(p, q, u)
+	case term.Same(old, q):
+		return []map[string]api.Term{u}
+	}
+	return nil
 }
 
 // P4.6: Covers says what all choices say, one after the other.

@@ -68,8 +68,33 @@ func TestGiven(t *testing.T) {
 	wantMatches(t, "{K:Id -> X:Int | M}", "{'a -> 1, 'b -> 2}", "K = 'c")
 	wantMatches(t, "{K:Id -> X:Int | M}", "{'a -> 1, 'b -> 2}", "X = 2", "K = 'b; M = {'a -> 1}; X = 2")
 	wantMatches(t, "{K:Any -> X:Int | M}", "{'a -> 1}", "K = ['a]")
-	// a term of another sort is none that the variable can stand for (P4.7)
-	wantMatches(t, "{K:Id -> X:Int | M}", "{1 -> 1, 'a -> 2}", "K = 1")
+}
+
+// P4.2, P4.3: a key that is a variable with a term stands for it, whatever its sort is; elsewhere the sort matters.
+func TestGivenKeys(t *testing.T) {
+	for _, sort := range []string{"Id", "Int", "Exp", "Alone", "Map", "Any"} {
+		wantMatches(t, "{K:"+sort+" -> 1}", "{'a -> 1}", "K = 'a", "K = 'a")
+	}
+	wantMatches(t, "{K:Id -> X:Int | M}", "{1 -> 1, 'a -> 2}", "K = 1", "K = 1; M = {'a -> 2}; X = 1")
+	wantMatches(t, "{K:Int -> 1}", "{'b -> 1}", "K = 'a")
+	wantMatches(t, "{K:Int -> 1}", "{1 -> 1}", "K = 'a")
+	wantMatches(t, "{K:Int -> 1}", "{'a -> 2}", "K = 'a")
+	wantMatches(t, "{K:Int -> 1}", "{'a -> 1, 'b -> 1}", "K = 'a")
+	wantMatches(t, "{K:Int -> 1}", "{'a -> 1}", "J = 'a")
+	// an entry is taken once, also one that is given
+	wantMatches(t, "{K:Int -> _, 'a -> _ | M}", "{'a -> 1, 'b -> 1}", "K = 'a")
+	wantMatches(t, "{K:Int -> _, K:Int -> _ | M}", "{'a -> 1, 'b -> 1}", "K = 'a")
+	wantMatches(t, "{K:Int -> _, J:Id -> _}", "{'a -> 1, 'b -> 1}", "K = 'a", "J = 'b; K = 'a")
+	wantMatches(t, "{J:Id -> _, K:Int -> _}", "{'a -> 1, 'b -> 1}", "K = 'a", "J = 'b; K = 'a")
+	// in each of two maps, and in the values of another one
+	wantMatches(t, "[{K:Int -> X:Int | M}, {K:Int -> Y:Int | M}]", "[{'a -> 1}, {'a -> 2}]", "K = 'a", "K = 'a; M = {}; X = 1; Y = 2")
+	wantMatches(t, "{J:Any -> {K:Int -> X:Int} | M}", "{1 -> {'a -> 1}, 2 -> {'a -> 2}, 3 -> {'b -> 3}}", "K = 'a",
+		"J = 1; K = 'a; M = {2 -> {'a -> 2}, 3 -> {'b -> 3}}; X = 1", "J = 2; K = 'a; M = {1 -> {'a -> 1}, 3 -> {'b -> 3}}; X = 2")
+	wantMatches(t, "{K:Int -> K:Int}", "{'a -> 'a}", "K = 'a")
+	wantMatches(t, "[{K:Int -> 1}, K:Int]", "[{'a -> 1}, 'a]", "K = 'a")
+	wantMatches(t, "[K:Int, {K:Int -> 1}]", "['a, {'a -> 1}]", "K = 'a")
+	wantMatches(t, "[K:Int, {K:Int -> 1}]", "['a, {'a -> 1}]", "")
+	wantMatches(t, "{K:Int -> 1}", "{'a -> 1}", "")
 }
 
 // P4.2: KApp, KList

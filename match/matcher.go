@@ -66,12 +66,17 @@ func (m matcher) bind(b binding, variable, t api.Term) bool {
 	return true
 }
 
+// held returns the term of a pattern that is a variable, if it has one.
+func (m matcher) held(b binding, p api.Term) *api.Term {
+	if p.Kind != api.KVar || p.Text == "_" {
+		return nil
+	}
+	return b[m.number[p.Text]]
+}
+
 // clash reports whether a pattern is a variable that has another term.
 func (m matcher) clash(b binding, p, t api.Term) bool {
-	if p.Kind != api.KVar || p.Text == "_" {
-		return false
-	}
-	old := b[m.number[p.Text]]
+	old := m.held(b, p)
 	return old != nil && !term.Same(*old, t)
 }
 
@@ -128,16 +133,16 @@ func entries(t api.Term) []entry {
 	return all
 }
 
-// suits reports whether the key and the value of a pattern's entry can match those of a map's, as top says.
-func (m matcher) suits(mine, its entry) bool {
-	return m.top(mine.key, its.key) && m.top(mine.value, its.value)
+// suits reports whether the key and the value of a pattern's entry can match those of a map's, as top says. A key that has a term stands for it, of whatever sort that is: it may have been given.
+func (m matcher) suits(b binding, mine, its entry) bool {
+	return (m.held(b, mine.key) != nil || m.top(mine.key, its.key)) && m.top(mine.value, its.value)
 }
 
 // suited returns which entries of a map, by their indices, suit one of a pattern.
-func (m matcher) suited(mine entry, its []entry) []int {
+func (m matcher) suited(b binding, mine entry, its []entry) []int {
 	var found []int
 	for i, it := range its {
-		if m.suits(mine, it) {
+		if m.suits(b, mine, it) {
 			found = append(found, i)
 		}
 	}
