@@ -5,6 +5,7 @@ import (
 	"slices"
 
 	"voussoir/api"
+	"voussoir/chars"
 )
 
 // Valid reports whether a signature is valid.
@@ -101,7 +102,7 @@ func BuiltIn(name string) bool {
 
 // IsName reports whether s is a name.
 func IsName(s string) bool {
-	return s != "" && len(s) <= api.MaxName && isLetter(s[0]) && allBytes(s, isNameByte)
+	return s != "" && len(s) <= api.MaxName && chars.IsLetter(s[0]) && chars.All(s, chars.IsNameByte)
 }
 
 // Same reports whether two signatures are the same.

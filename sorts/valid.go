@@ -5,6 +5,7 @@ import (
 	"strings"
 
 	"voussoir/api"
+	"voussoir/chars"
 )
 
 // Limits of a signature that api does not have.
@@ -130,31 +131,7 @@ func isOpName(s string) bool {
 }
 
 func isStringPiece(s string) bool {
-	if s == "" || len(s) > maxPiece {
-		return false
-	}
-	return IsName(s) || allBytes(s, isSignByte)
-}
-
-func isLetter(c byte) bool {
-	return c >= 'a' && c <= 'z' || c >= 'A' && c <= 'Z'
-}
-
-func isNameByte(c byte) bool {
-	return isLetter(c) || c >= '0' && c <= '9' || c == '_'
-}
-
-func isSignByte(c byte) bool {
-	return c >= 33 && c <= 126 && !isNameByte(c) && c != '"' && c != '\'' && c != '\\'
-}
-
-func allBytes(s string, want func(c byte) bool) bool {
-	for i := range len(s) {
-		if !want(s[i]) {
-			return false
-		}
-	}
-	return true
+	return len(s) <= maxPiece && (IsName(s) || chars.IsSign(s))
 }
 
 // differ reports whether no two elements are the same.

@@ -4,11 +4,10 @@ import (
 	"strings"
 
 	"voussoir/api"
+	"voussoir/chars"
 	"voussoir/nodes"
 	"voussoir/sorts"
 )
-
-const maxString = 200 // bytes of a KText
 
 // measure returns the size and the depth of a term: ErrArg unless it is well formed. It looks no further than at what shows that: a term may be of any size.
 func measure(t api.Term) (size, depth int, e api.Errno) {
@@ -31,7 +30,7 @@ func validNode(t api.Term) bool {
 	case api.KBool:
 		return (t.N == 0 || t.N == 1) && t.Text == "" && t.Sort == "" && isLeaf(t)
 	case api.KText:
-		return t.N == 0 && isString(t.Text) && t.Sort == "" && isLeaf(t)
+		return t.N == 0 && chars.IsString(t.Text) && t.Sort == "" && isLeaf(t)
 	case api.KId:
 		return t.N == 0 && isIdentifier(t.Text) && t.Sort == "" && isLeaf(t)
 	case api.KApp:
@@ -47,18 +46,6 @@ func validNode(t api.Term) bool {
 }
 
 func isLeaf(t api.Term) bool { return len(t.Kids) == 0 && len(t.Rest) == 0 }
-
-func isString(s string) bool {
-	if len(s) > maxString {
-		return false
-	}
-	for _, c := range s {
-		if c < 32 || c > 126 || c == '"' || c == '\\' {
-			return false
-		}
-	}
-	return true
-}
 
 func isIdentifier(s string) bool {
 	return sorts.IsName(s) && s[0] >= 'a' && s[0] <= 'z' && s != "true" && s != "false"

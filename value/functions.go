@@ -5,10 +5,9 @@ import (
 
 	"voussoir/api"
 	"voussoir/book"
+	"voussoir/chars"
 	"voussoir/term"
 )
-
-const maxString = 200 // bytes of a string
 
 // function calculates a built-in function of plain terms, which are as many as it has arguments, and of their sorts. Its result may share memory with them, and be too large or too deep.
 type function func(args []api.Term) (api.Term, api.Errno)
@@ -95,7 +94,7 @@ func pick(args []api.Term) api.Term {
 
 func cat(args []api.Term) (api.Term, api.Errno) {
 	s := args[0].Text + args[1].Text
-	if len(s) > maxString {
+	if len(s) > chars.MaxString {
 		return api.Term{}, api.ErrRange
 	}
 	return text(s), api.OK
